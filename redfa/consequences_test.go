@@ -2,6 +2,7 @@ package redfa_test
 
 import (
 	"math/rand"
+	"strings"
 	"testing"
 
 	"texttools/api"
@@ -115,7 +116,7 @@ func TestP12_7Minimal(t *testing.T) {
 	var automata []api.Dfa
 	for range 8000 {
 		d := randomDfa(random, 9)
-		automata = append(automata, withAllClasses(d))
+		automata = append(automata, d, withAllClasses(d))
 	}
 	for _, e := range append(validTrees(1272, 2000, 4, 3), smallTrees(2)...) {
 		if p, err := reprog.Compile(e, random.Intn(2) == 0); err == api.OK {
@@ -154,15 +155,26 @@ func withAllClasses(d api.Dfa) api.Dfa {
 	return d
 }
 
-// TestP12_7OtherClasses has classes without bytes: what Minimize returns is Same as its argument, with not more states.
-func TestP12_7OtherClasses(t *testing.T) {
+// TestP12_7ClassesWithoutBytes has automata in which states are reached only by a class without bytes, from states that others take the place of.
+func TestP12_7ClassesWithoutBytes(t *testing.T) {
 	random := rand.New(rand.NewSource(1273))
-	for range 8000 {
+	left := 0
+	for range 12000 {
 		d := randomDfa(random, 9)
+		// The class before the end has no byte.
+		d.Class = strings.ReplaceAll(d.Class, string([]byte{byte(d.Classes - 2)}), "\x00")
+		d = twinned(random, d, random.Intn(4))
 		least := redfa.Minimize(d)
 		if !redfa.Valid(least) || !redfa.Same(d, least) || len(least.Next) > len(d.Next) {
 			t.Fatalf("Minimize(%s) = %s", showDfa(d), showDfa(least))
 		}
+		checkDfa(t, "Minimize of what Minimize returns", redfa.Minimize(least), least)
+		if len(remainingStates(d).Next) > len(least.Next) {
+			left++
+		}
+	}
+	if left < 200 {
+		t.Errorf("only %d automata had states that nothing led to any more", left)
 	}
 }
 

@@ -224,8 +224,19 @@ func differingStates(x, y api.Dfa) differing {
 	return differ
 }
 
-// definedMinimal returns what Minimize must return for a valid automaton.
+// definedMinimal returns what Minimize must return for a valid automaton: that nothing changes any more, as P12.7 asks, when the states of P12.4 are taken once more.
 func definedMinimal(d api.Dfa) api.Dfa {
+	for {
+		minimal := remainingStates(d)
+		if equalDfas(minimal, d) {
+			return minimal
+		}
+		d = minimal
+	}
+}
+
+// remainingStates returns the automaton that has the states of P12.4, where states can be reached by Next of the argument.
+func remainingStates(d api.Dfa) api.Dfa {
 	differ := differingStates(d, d)
 	reached := map[int]bool{0: true, 1: true}
 	for size := -1; size != len(reached); {

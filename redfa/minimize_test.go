@@ -82,7 +82,7 @@ func TestP12_4States(t *testing.T) {
 	}
 }
 
-// TestP12_4ClassesWithoutBytes has classes of no byte: no string tells states apart by them, but Next leads to states by them.
+// TestP12_4ClassesWithoutBytes has classes of no byte: no string tells states apart by them, but Next leads to states by them. A state that nothing leads to any more does not remain.
 func TestP12_4ClassesWithoutBytes(t *testing.T) {
 	for _, c := range []struct{ d, want api.Dfa }{
 		// A match before a class without bytes is none.
@@ -90,11 +90,16 @@ func TestP12_4ClassesWithoutBytes(t *testing.T) {
 		{dfaOf(classesOf(), "2 - - yny", "- - - yyy", "- - - yyy"), dfaOf(classesOf(), "1 - - yny", "- - - yyy")},
 		{dfaOf(classesOf(), "2 - - nnn", "3 - - nnn", "- - - yyy", "- - - yny"), dfaOf(classesOf(), "2 - - nnn", "2 - - nnn", "- - - yyy")},
 		// What follows it does not count.
-		{dfaOf(classesOf(), "2 - - nnn", "- - - nnn", "- 3 - nnn", "- - - yyy"), dfaOf(classesOf(), "- - - nnn", "- - - nnn", "- - - yyy")},
+		{dfaOf(classesOf(), "2 - - nnn", "- - - nnn", "- 3 - nnn", "- - - yyy"), dfaOf(classesOf(), "- - - nnn", "- - - nnn")},
 		{dfaOf(classesOf(), "- 2 - nnn", "- - - nnn", "- - - yyy"), dfaOf(classesOf(), "- 2 - nnn", "- - - nnn", "- - - yyy")},
 		{dfaOf(classesOf(), "2 2 - nnn", "3 0 - nny", "- 0 - yyy", "- 1 - yyy"), dfaOf(classesOf(), "2 2 - nnn", "2 0 - nny", "- 0 - yyy")},
-		// Only a state that does not remain leads to the last one: it was reached in the argument.
-		{dfaOf(classesOf(), "2 3 - nnn", "- - - nnn", "- - - yny", "- 4 - yny", "- - - nny"), dfaOf(classesOf(), "2 2 - nnn", "- - - nnn", "- - - yny", "- - - nny")},
+		// Only a state that does not remain leads to the last one, or to one that leads to it, or to both of its kind.
+		{dfaOf(classesOf(), "2 3 - nnn", "- - - nnn", "- - - yny", "- 4 - yny", "- - - nny"), dfaOf(classesOf(), "2 2 - nnn", "- - - nnn", "- - - yny")},
+		{dfaOf(classesOf(), "2 - - nnn", "3 - - nnn", "- - - nny", "- 4 - nny", "- - - yyy"), dfaOf(classesOf(), "2 - - nnn", "2 - - nnn", "- - - nny")},
+		{dfaOf(classesOf(), "2 3 - nnn", "- - - nnn", "- - - yny", "- 4 - yny", "5 - - nny", "4 - - yny"), dfaOf(classesOf(), "2 2 - nnn", "- - - nnn", "- - - yny")},
+		{dfaOf(classesOf(), "3 - - nnn", "- 2 - nnn", "- 4 - nnn", "- - - nny", "- - - yyy"), dfaOf(classesOf(), "2 - - nnn", "- - - nnn", "- - - nny")},
+		// The least of two equivalent states is reached through one that does not remain, but takes the place of the other.
+		{dfaOf(classesOf(), "2 - - nnn", "3 5 - nnn", "- - - nny", "- 4 - nny", "- - - yyy", "- 2 - yyy"), dfaOf(classesOf(), "2 - - nnn", "2 3 - nnn", "- - - nny", "- - - yyy")},
 	} {
 		checkMinimize(t, c.d, c.want)
 	}
